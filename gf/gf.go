@@ -19,7 +19,7 @@ type tables struct {
 	logs   [order + 1]byte
 }
 
-// field outlives the calls, since its tables are made but once; all reach it by ready.
+// field outlives the calls, since its tables are made but once. No answer hangs on it: it spares logarithm its steps.
 var field tables
 
 // ready hands the tables on filled, whichever call is the first one.
@@ -38,6 +38,15 @@ func (t *tables) fill() {
 	}
 }
 
+// place is the power of 2 that a is, as far as both tables say the same of it; else 0.
+func (t *tables) place(a byte) int {
+	n := int(t.logs[a])
+	if n < order && t.powers[n] == a {
+		return n
+	}
+	return 0
+}
+
 func double(a byte) byte {
 	if a&0x80 != 0 {
 		return a<<1 ^ modulus
@@ -45,21 +54,33 @@ func double(a byte) byte {
 	return a << 1
 }
 
-func (t *tables) product(a, b byte) byte {
-	if a == 0 || b == 0 {
-		return 0
+// product adds a up, doubled as often as each bit of b that is set says.
+func product(a, b byte) byte {
+	sum := byte(0)
+	for ; b != 0; b >>= 1 {
+		if b&1 == 1 {
+			sum ^= a
+		}
+		a = double(a)
 	}
-	return t.powers[(int(t.logs[a])+int(t.logs[b]))%order]
+	return sum
 }
 
-func (t *tables) power(a byte, n int) byte {
+func power(a byte, n int) byte {
 	switch {
 	case n == 0:
 		return 1
 	case a == 0:
 		return 0
 	}
-	return t.powers[int(t.logs[a])*around(n)%order]
+	out := byte(1)
+	for left := around(n); left > 0; left >>= 1 {
+		if left&1 == 1 {
+			out = product(out, a)
+		}
+		a = product(a, a)
+	}
+	return out
 }
 
 // around is n modulo order, from 0 on. It never takes -n: the least int has none.
@@ -67,9 +88,22 @@ func around(n int) int {
 	return (n%order + order) % order
 }
 
+// logarithm counts on from a start, and round, until it comes to the power of 2 that a is; so its answer hangs on no start. It is 0 of 0, which is no power.
+func logarithm(a byte, start int) int {
+	n := around(start)
+	p := power(2, n)
+	for range order {
+		if p == a {
+			return n
+		}
+		n, p = around(n+1), double(p)
+	}
+	return 0
+}
+
 // Mul is the product of both.
 func Mul(a, b byte) byte {
-	return field.ready().product(a, b)
+	return product(a, b)
 }
 
 // Inv is the number that times a is 1; of 0 there is none.
@@ -77,7 +111,7 @@ func Inv(a byte) (byte, bool) {
 	if a == 0 {
 		return 0, false
 	}
-	return field.ready().power(a, -1), true
+	return power(a, -1), true
 }
 
 // Div is a times the Inv of b, if there is one.
@@ -91,7 +125,7 @@ func Div(a, b byte) (byte, bool) {
 
 // Pow is a times itself, n times; of n below 0 that of its Inv.
 func Pow(a byte, n int) byte {
-	return field.ready().power(a, n)
+	return power(a, n)
 }
 
 // Exp is the power n of 2.
@@ -104,15 +138,14 @@ func Log(a byte) (int, bool) {
 	if a == 0 {
 		return 0, false
 	}
-	return int(field.ready().logs[a]), true
+	return logarithm(a, field.ready().place(a)), true
 }
 
 // Times is Mul by one number, byte by byte.
 func Times(s string, by byte) string {
-	t := field.ready()
 	out := make([]byte, len(s))
 	for i := range out {
-		out[i] = t.product(s[i], by)
+		out[i] = product(s[i], by)
 	}
 	return string(out)
 }

@@ -255,12 +255,18 @@ func TestXorOfEachTwoBytes(t *testing.T) {
 	}
 }
 
-// P1.5: products hang on no order, and go through sums.
+// P1.5: products hang on no order, and go through sums. They are kept here, since each one is asked for often.
 func TestProductsHangOnNoOrderAndGoThroughSums(t *testing.T) {
+	var mul [256][256]byte
+	for a := range mul {
+		for b := range mul[a] {
+			mul[a][b] = Mul(byte(a), byte(b))
+		}
+	}
 	for i := range 1 << 24 {
 		a, b, c := byte(i>>16), byte(i>>8), byte(i)
-		ab, ac := Mul(a, b), Mul(a, c)
-		if ab != Mul(b, a) || Mul(ab, c) != Mul(a, Mul(b, c)) || ab^ac != Mul(a, b^c) {
+		ab, ac := mul[a][b], mul[a][c]
+		if ab != mul[b][a] || mul[ab][c] != mul[a][mul[b][c]] || ab^ac != mul[a][b^c] {
 			t.Fatalf("of %#x, %#x, %#x", a, b, c)
 		}
 	}
@@ -299,14 +305,14 @@ func TestPowersOfTwoAreAllNumbersButNought(t *testing.T) {
 func TestTablesAreMadeOnce(t *testing.T) {
 	var fresh tables
 	var group sync.WaitGroup
-	var answers [50]byte
+	var answers [50]int
 	for i := range answers {
-		group.Go(func() { answers[i] = fresh.ready().product(2, 0x80) })
+		group.Go(func() { answers[i] = fresh.ready().place(0x1d) })
 	}
 	group.Wait()
 	for i, answer := range answers {
-		if answer != 0x1d {
-			t.Errorf("call %d: %#x", i, answer)
+		if answer != 8 {
+			t.Errorf("call %d: %d", i, answer)
 		}
 	}
 	if made := fresh.made.Load(); made != 1 {
@@ -314,7 +320,7 @@ func TestTablesAreMadeOnce(t *testing.T) {
 	}
 }
 
-// All calls lean on the same tables.
+// However often the calls are made, the tables beside them are made once.
 func TestCallsShareTheTables(t *testing.T) {
 	for n := range 10 {
 		Mul(3, 7)
@@ -326,5 +332,45 @@ func TestCallsShareTheTables(t *testing.T) {
 	}
 	if made := field.made.Load(); made != 1 {
 		t.Errorf("made %d times", made)
+	}
+}
+
+// The tables hold just the powers and logarithms that the calls answer.
+func TestTablesSayWhatTheCallsAnswer(t *testing.T) {
+	var fresh tables
+	fresh.fill()
+	for n, power := range fresh.powers {
+		if power != step(1, 2, n) || int(fresh.logs[power]) != n || fresh.place(power) != n {
+			t.Errorf("power %d is %#x, of which the logarithm is %d, and the place %d", n, power, fresh.logs[power], fresh.place(power))
+		}
+	}
+	if n := fresh.place(0); n != 0 {
+		t.Errorf("0 has the place %d", n)
+	}
+}
+
+// Tables that are empty, or wrong, have no places, rather than wrong ones.
+func TestTablesThatDisagreeHaveNoPlaces(t *testing.T) {
+	var empty, wrong tables
+	wrong.fill()
+	for a := range wrong.logs {
+		wrong.logs[a]++
+	}
+	for a := 1; a < 256; a++ {
+		if n, m := empty.place(byte(a)), wrong.place(byte(a)); n != 0 || m != 0 {
+			t.Errorf("%#x has the places %d, %d", a, n, m)
+		}
+	}
+}
+
+// A logarithm hangs on no table: it is the same one from wherever it is counted, and 0 of 0.
+func TestLogarithmHangsOnNoStart(t *testing.T) {
+	for a := range 256 {
+		want, _ := Log(byte(a))
+		for start := -256; start <= 512; start++ {
+			if got := logarithm(byte(a), start); got != want {
+				t.Fatalf("%#x, counted from %d: %d, not %d", a, start, got, want)
+			}
+		}
 	}
 }
